@@ -372,6 +372,7 @@ func TestLoops(t *testing.T) {
 	refuses(t, "struct s { a s[1] }", 0, api.ErrType)
 	refuses(t, "struct s { p ptr[in, s] }", 0, api.ErrType)
 	refuses(t, "struct s { a t }\nstruct t { a s, b zz }", 0, api.ErrLoop)
+	refuses(t, "struct s { a t }\nstruct t { p ptr[in, s] }", 0, api.ErrLoop)
 	refuses(t, "struct s { a t }\nstruct t { a zz, b t }", 1, api.ErrName)
 	refuses(t, "call f(1)(a zz)\nstruct s { a s }", 0, api.ErrName)
 	refuses(t, "struct s { a s }\ncall f(1)(a zz)", 0, api.ErrLoop)
